@@ -1,0 +1,31 @@
+// Package alerts: where alerts go: see DOC.md.
+package alerts
+
+import (
+	"alerts/api"
+	"alerts/config"
+)
+
+// Program is one that was made of a configuration, or loaded.
+type Program struct{}
+
+// Compile makes the program of a configuration (P9).
+func Compile(s string) (*Program, api.Errno, int) { return nil, api.OK, 0 }
+
+// Print writes a configuration in its one form (P6).
+func Print(s string) (string, api.Errno, int) {
+	c, e, line := config.Read(s)
+	if e != api.OK {
+		return "", e, line
+	}
+	return config.Print(c), api.OK, 0
+}
+
+// Route tells where an alert goes (P10, P11).
+func (p *Program) Route(l []api.Label) ([]api.Hit, api.Errno) { return nil, api.OK }
+
+// Save writes a program as bytes (P13).
+func (p *Program) Save() string { return "" }
+
+// Load reads a program from bytes (P14).
+func Load(s string) (*Program, api.Errno) { return nil, api.OK }
