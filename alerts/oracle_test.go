@@ -8,10 +8,11 @@ import (
 	"testing"
 
 	"alerts/api"
+	"alerts/regex"
 )
 
 // A second reading of P2 to P6, by the library's regular expressions, that
-// Print is held against at texts which are nearly configurations.
+// Print and Compile are held against at texts which are nearly configurations.
 
 const (
 	nameForm   = `[A-Za-z_][A-Za-z0-9_]{0,7}`
@@ -25,8 +26,9 @@ var (
 		`( by (?:-|` + nameForm + `(?:,` + nameForm + `){0,3}))?` +
 		`((?: wait ` + numberForm + `)?(?: every ` + numberForm + `)?(?: repeat ` + numberForm + `)?)` +
 		`((?: if ` + nameForm + `(?:=|!=|=~|!~)` + valueForm + `){0,4})( continue)?$`)
-	byteForm = regexp.MustCompile(`\\x[0-9a-f]{2}|\\.|.`)
-	routesOf = map[string][]string{}
+	matcherForm = regexp.MustCompile(nameForm + `(?:=|!=|=~|!~)` + valueForm)
+	byteForm    = regexp.MustCompile(`\\x[0-9a-f]{2}|\\.|.`)
+	routesOf    = map[string][]string{}
 )
 
 // routeParts: blanks, receiver, by, times, matchers, continue; nil if the line is no route.
@@ -134,8 +136,9 @@ func wantedByte(written string) string {
 
 // seen counts what the texts came to, so that a test of nothing is noticed.
 type seen struct {
-	faults  [10]int
-	changed int
+	faults      [10]int
+	expressions [10]int
+	changed     int
 }
 
 func (n *seen) check(t *testing.T, s string) {
@@ -145,6 +148,7 @@ func (n *seen) check(t *testing.T, s string) {
 	if got != form || gotE != e || gotLine != line {
 		t.Errorf("Print(%q) = %q, %d, line %d, want %q, %d, line %d", s, got, gotE, gotLine, form, e, line)
 	}
+	n.checkCompile(t, s, e, line)
 	n.faults[e]++
 	if e != api.OK {
 		return
@@ -161,6 +165,41 @@ func (n *seen) check(t *testing.T, s string) {
 	}
 }
 
+// checkCompile is told the fault of Print, which is of Compile too; the faults
+// of expressions come behind it.
+func (n *seen) checkCompile(t *testing.T, s string, e api.Errno, line int) {
+	t.Helper()
+	if e == api.OK {
+		e, line = wantedExpressionFault(s)
+		n.expressions[e]++
+	}
+	p, gotE, gotLine := Compile(s)
+	if (p != nil) != (e == api.OK) || gotE != e || gotLine != line {
+		t.Errorf("Compile(%q) = %v, %d, line %d, want %d, line %d", s, p != nil, gotE, gotLine, e, line)
+	}
+}
+
+// wantedExpressionFault: package regex has its own second reading.
+func wantedExpressionFault(s string) (api.Errno, int) {
+	for i, line := range strings.Split(s, "\n") {
+		for _, m := range matcherForm.FindAllString(line, -1) {
+			sign := strings.IndexByte(m, '~')
+			if quote := strings.IndexByte(m, '"'); sign < 0 || quote < sign {
+				continue
+			}
+			value := ""
+			for _, b := range byteForm.FindAllString(m[sign+2:len(m)-1], -1) {
+				c, _, _, _ := strconv.UnquoteChar(b, '"')
+				value += string([]byte{byte(c)})
+			}
+			if _, e := regex.Compile(value); e != api.OK {
+				return e, i + 1
+			}
+		}
+	}
+	return api.OK, 0
+}
+
 var bases = []string{
 	"receivers a b/route a/ route b continue/",
 	"receivers a b_9 C/route C by - wait 0 every 7 repeat 99999/ route - by b,a,b/  route b_9 if x=\"\"/   route a if x!=\"q\" if y=~\"(\" if _9!~\" \" continue/ route a/",
@@ -168,6 +207,7 @@ var bases = []string{
 	head + " route b if x=\"" + strings.Repeat("a", 39) + "\"/  route - if y=~\"" + strings.Repeat("\\x61", 40) + "\"/",
 	"receivers if wait route/route route/ route if if if=\"\"/ route wait wait 1 continue/  route -/   route -/    route -/     route if/",
 	"receivers a b c d e f g/route a/" + strings.Repeat(" route g/", 15),
+	head + " route b if x=~\"(a|b)*a[^c]{2}\" if y=\"(\"/ route - if z!~\"a{9}{4}bc\" if y=~\"[a-f]+\\\\.\"/  route a if x!~\".*a.{4}\"/",
 	head + " route b if a=\"\" if b=\"\" if c=\"\" if d=\"\"/ route b by aa,ab wait 99999 every 99999 repeat 99999/",
 }
 
@@ -193,6 +233,11 @@ func TestNearConfigurations(t *testing.T) {
 	for _, e := range []api.Errno{api.OK, api.ErrSyntax, api.ErrTree, api.ErrName} {
 		if n.faults[e] < 100 {
 			t.Errorf("only %d texts came to %d", n.faults[e], e)
+		}
+	}
+	for _, e := range []api.Errno{api.OK, api.ErrRegex, api.ErrLarge, api.ErrStates} {
+		if n.expressions[e] < 10 {
+			t.Errorf("only %d expressions came to %d", n.expressions[e], e)
 		}
 	}
 	if n.changed < 100 {
@@ -253,7 +298,7 @@ func shuffledLine(r *shuffle, kind string, depth int) string {
 	return strings.Repeat(" ", depth) + strings.Join(words, " ") + "\n"
 }
 
-// FuzzPrint: `go test -fuzz Print ./alerts`; without, the seeds alone.
+// FuzzPrint: Compile too: `go test -fuzz Print ./alerts`; without, the seeds alone.
 func FuzzPrint(f *testing.F) {
 	for _, base := range bases {
 		f.Add(text(base))
