@@ -220,3 +220,27 @@ func TestLongTexts(t *testing.T) {
 		checkFault(t, "P1", c.text, c.e)
 	}
 }
+
+// TestWrongAutomata: such as come with a fault, or whose steps lead nowhere, take nothing.
+func TestWrongAutomata(t *testing.T) {
+	for _, a := range []Automaton{{}, {Classes: 1}, {Classes: 1, Next: []int{1}}, {Classes: 1, Next: []int{-1}}, {Classes: 1, Next: []int{-1}, Accepts: []bool{false}}, {Classes: 1, Next: []int{1}, Accepts: []bool{false}}} {
+		for _, v := range []string{"", "a", "aa", "\xff"} {
+			if a.Takes(v) {
+				t.Errorf("%v takes %q", a, v)
+			}
+		}
+	}
+}
+
+// TestClasses: bytes that no part of the expression tells apart have one class.
+func TestClasses(t *testing.T) {
+	for _, c := range []struct {
+		text    string
+		classes int
+	}{{"", 1}, {".*", 1}, {"a", 2}, {"aa|a", 2}, {"[ab]*", 2}, {"[ab][^ab]", 2}, {"(a|b)*a", 3}, {"[a-m][k-z]", 4}, {"abc", 4}, {"[^\x00-\xff]", 1}} {
+		a := mustCompile(t, c.text)
+		if a.Classes != c.classes {
+			t.Errorf("%q has %d classes, want %d", c.text, a.Classes, c.classes)
+		}
+	}
+}
