@@ -4,11 +4,13 @@ package alerts
 import (
 	"alerts/api"
 	"alerts/config"
-	"alerts/regex"
+	"alerts/program"
 )
 
 // Program is one that was made of a configuration, or loaded.
-type Program struct{}
+type Program struct {
+	code program.Program
+}
 
 // Compile makes the program of a configuration (P9).
 func Compile(s string) (*Program, api.Errno, int) {
@@ -16,28 +18,11 @@ func Compile(s string) (*Program, api.Errno, int) {
 	if e != api.OK {
 		return nil, e, line
 	}
-	e, line = expressionFault(c.Routes)
+	code, e, line := program.Compile(c)
 	if e != api.OK {
 		return nil, e, line
 	}
-	return &Program{}, api.OK, 0
-}
-
-// expressionFault answers the fault of the first matcher that has one, with
-// the line of its route.
-func expressionFault(routes []config.Route) (api.Errno, int) {
-	for i, r := range routes {
-		for _, m := range r.If {
-			if m.Kind != api.Like && m.Kind != api.Unlike {
-				continue
-			}
-			_, e := regex.Compile(m.Value)
-			if e != api.OK {
-				return e, config.LineOf(i)
-			}
-		}
-	}
-	return api.OK, 0
+	return &Program{code: code}, api.OK, 0
 }
 
 // Print writes a configuration in its one form (P6).
@@ -50,7 +35,16 @@ func Print(s string) (string, api.Errno, int) {
 }
 
 // Route tells where an alert goes (P10, P11).
-func (p *Program) Route(l []api.Label) ([]api.Hit, api.Errno) { return nil, api.OK }
+func (p *Program) Route(l []api.Label) ([]api.Hit, api.Errno) {
+	if !program.AreLabels(l) {
+		return nil, api.ErrLabels
+	}
+	// With a fault Compile answers no program: it sends nowhere.
+	if p == nil {
+		return nil, api.OK
+	}
+	return p.code.Run(l), api.OK
+}
 
 // Save writes a program as bytes (P13).
 func (p *Program) Save() string { return "" }

@@ -177,6 +177,14 @@ func (n *seen) checkCompile(t *testing.T, s string, e api.Errno, line int) {
 	if (p != nil) != (e == api.OK) || gotE != e || gotLine != line {
 		t.Errorf("Compile(%q) = %v, %d, line %d, want %d, line %d", s, p != nil, gotE, gotLine, e, line)
 	}
+	if e == api.OK {
+		checkWays(t, s, p, nearLabels)
+	}
+}
+
+// nearLabels: what the bases ask for, and not.
+var nearLabels = [][]api.Label{
+	nil, labels("x", "1"), labels("x", "q", "y", "(", "_9", "a"), labels("x", "A\n\"\\", "abcdefgh", "\"\\\x7f"), labels("x", strings.Repeat("a", 39), "y", strings.Repeat("a", 40)), labels("if", "1", "y", "f.", "x", "babc"), labels("x", "baabbb", "z", "a"), labels("a", "", "b", "", "c", "1"),
 }
 
 // wantedExpressionFault: package regex has its own second reading.
@@ -187,12 +195,7 @@ func wantedExpressionFault(s string) (api.Errno, int) {
 			if quote := strings.IndexByte(m, '"'); sign < 0 || quote < sign {
 				continue
 			}
-			value := ""
-			for _, b := range byteForm.FindAllString(m[sign+2:len(m)-1], -1) {
-				c, _, _, _ := strconv.UnquoteChar(b, '"')
-				value += string([]byte{byte(c)})
-			}
-			if _, e := regex.Compile(value); e != api.OK {
+			if _, e := regex.Compile(meant(m[sign+2 : len(m)-1])); e != api.OK {
 				return e, i + 1
 			}
 		}
