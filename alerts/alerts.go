@@ -39,7 +39,7 @@ func (p *Program) Route(l []api.Label) ([]api.Hit, api.Errno) {
 	if !program.AreLabels(l) {
 		return nil, api.ErrLabels
 	}
-	// With a fault Compile answers no program: it sends nowhere.
+	// With a fault Compile and Load answer no program: it sends nowhere.
 	if p == nil {
 		return nil, api.OK
 	}
@@ -47,7 +47,19 @@ func (p *Program) Route(l []api.Label) ([]api.Hit, api.Errno) {
 }
 
 // Save writes a program as bytes (P13).
-func (p *Program) Save() string { return "" }
+func (p *Program) Save() string {
+	// What neither Compile nor Load made has no bytes.
+	if p == nil || len(p.code.Instructions) == 0 {
+		return ""
+	}
+	return p.code.Save()
+}
 
 // Load reads a program from bytes (P14).
-func Load(s string) (*Program, api.Errno) { return nil, api.OK }
+func Load(s string) (*Program, api.Errno) {
+	code, ok := program.Load(s)
+	if !ok {
+		return nil, api.ErrBytes
+	}
+	return &Program{code: code}, api.OK
+}

@@ -179,6 +179,7 @@ func (n *seen) checkCompile(t *testing.T, s string, e api.Errno, line int) {
 	}
 	if e == api.OK {
 		checkWays(t, s, p, nearLabels)
+		checkSaved(t, s, p, nearLabels)
 	}
 }
 

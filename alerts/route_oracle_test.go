@@ -214,6 +214,7 @@ func TestShuffledTrees(t *testing.T) {
 			counts[n]++
 		}
 		checkWays(t, s, q, lists)
+		checkSaved(t, s, p, lists)
 	}
 	for n := 1; n <= 5; n++ {
 		if counts[n] < 100 {
